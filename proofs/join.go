@@ -4,6 +4,7 @@ import (
 	"slices"
 
 	"vernier/api"
+	"vernier/copies"
 	"vernier/exact"
 )
 
@@ -16,11 +17,11 @@ func Join(p api.Prog, input int, at api.Rat, a, b api.Proof) (api.Proof, api.Err
 	case !x.hasInput(input):
 		return api.Proof{}, api.ErrRange
 	}
-	split, e := exact.Parse(at)
+	where, e := exact.Parse(at)
 	switch {
 	case e != api.OK:
 		return api.Proof{}, e
-	case !isBetween(split, x.box()[input]):
+	case !isBetween(where, x.box()[input]):
 		return api.Proof{}, api.ErrRange
 	}
 	ends, e := readNumbers(a.Lo, a.Hi, a.Err, b.Lo, b.Hi, b.Err)
@@ -30,45 +31,13 @@ func Join(p api.Prog, input int, at api.Rat, a, b api.Proof) (api.Proof, api.Err
 	case 1+len(a.Items)+len(b.Items) > api.MaxItems:
 		return api.Proof{}, api.ErrLong
 	}
-	items := []api.PfItem{{Kind: api.PfSplit, Input: input, At: at}}
-	for _, item := range slices.Concat(a.Items, b.Items) {
-		items = append(items, copyItem(item))
-	}
+	split := []api.PfItem{{Kind: api.PfSplit, Input: input, At: at}}
 	return api.Proof{
-		Items: items,
+		Items: slices.Concat(split, copies.Items(a.Items), copies.Items(b.Items)),
 		Lo:    ends[0].Min(ends[3]).Text(),
 		Hi:    ends[1].Max(ends[4]).Text(),
 		Err:   ends[2].Max(ends[5]).Text(),
 	}, api.OK
-}
-
-// copyEach returns a list of copies.
-func copyEach[T any](l []T, copyOf func(T) T) []T {
-	out := make([]T, len(l))
-	for i, x := range l {
-		out[i] = copyOf(x)
-	}
-	return out
-}
-
-func copyItem(x api.PfItem) api.PfItem {
-	x.Claims, x.States = copyEach(x.Claims, copyClaim), copyEach(x.States, copyClaim)
-	return x
-}
-
-func copyClaim(x api.PfClaim) api.PfClaim {
-	x.Low, x.High = copyEach(x.Low, copySquare), copyEach(x.High, copySquare)
-	return x
-}
-
-func copySquare(x api.PfSquare) api.PfSquare {
-	x.Poly = copyEach(x.Poly, copyTerm)
-	return x
-}
-
-func copyTerm(x api.PfTerm) api.PfTerm {
-	x.Pows = slices.Clone(x.Pows)
-	return x
 }
 
 // Same reports whether two proofs are equal.
